@@ -33,16 +33,21 @@ func overwrite(list []int) {
 	}
 }
 
+// fresh reports whether a function leaves a list as it is, and what it returns for it is memory of its own.
+func fresh(list func([]int) []int, p []int) bool {
+	// The spare capacity of the argument is not to be written to either.
+	argument := append(make([]int, 0, 8), p...)
+	before := slices.Clone(argument[:8])
+	first := list(argument)
+	again := slices.Clone(first)
+	overwrite(first)
+	return slices.Equal(argument[:8], before) && slices.Equal(list(argument), again)
+}
+
 func TestListsAreFresh(t *testing.T) {
 	for name, list := range listFunctions() {
 		for _, p := range [][]int{{2, 1, 0}, {0, 1, 2}, {3, 2, 1, 0}} {
-			// The spare capacity of the argument is not to be written to either.
-			argument := append(make([]int, 0, 8), p...)
-			before := slices.Clone(argument[:8])
-			first := list(argument)
-			again := slices.Clone(first)
-			overwrite(first)
-			if !slices.Equal(argument[:8], before) || !slices.Equal(list(argument), again) {
+			if !fresh(list, p) {
 				t.Errorf("%s(%v) changes or shares memory", name, p)
 			}
 		}

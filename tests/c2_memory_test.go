@@ -11,12 +11,7 @@ func TestPlacesAreFresh(t *testing.T) {
 	lists := map[string]func([]int) []int{"AboveOf": impl.AboveOf, "FixedOf": impl.FixedOf, "RecordsOf": impl.RecordsOf}
 	for name, list := range lists {
 		for _, p := range [][]int{{2, 1, 0}, {0, 1, 2}, {1, 0, 2, 4, 5, 3, 6}} {
-			argument := append(make([]int, 0, 8), p...)
-			before := slices.Clone(argument[:8])
-			first := list(argument)
-			again := slices.Clone(first)
-			overwrite(first)
-			if !slices.Equal(argument[:8], before) || !slices.Equal(list(argument), again) {
+			if !fresh(list, p) {
 				t.Errorf("%s(%v) changes or shares memory", name, p)
 			}
 		}
